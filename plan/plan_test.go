@@ -208,23 +208,20 @@ func refused() map[string]struct {
 		want api.Errno
 	}
 	wrong := api.Term{}
-	tooDeep, tooMany := nested(200, a("a")), shared(12, a("a"))
+	tooDeep := nested(200, a("a"))
 	kind := func(k int) api.Goal { return api.Goal{Kind: k, Term: a("b")} }
 	return map[string]row{
 		"nothing":                      {api.Clause{}, api.ErrTerm},
 		"a head that is none":          {of(wrong), api.ErrTerm},
 		"a head too deep":              {of(tooDeep), api.ErrDepth},
-		"a head of too many parts":     {of(tooMany), api.ErrMany},
 		"a head of 2^201 parts":        {of(shared(200, a("a"))), api.ErrDepth},
 		"an endless head":              {of(endless()), api.ErrDepth},
 		"a goal that is none":          {of(a("p"), call(a("b")), call(wrong)), api.ErrTerm},
 		"a cut that is none":           {of(a("p"), api.Goal{Kind: api.GoalCut}), api.ErrTerm},
 		"a goal too deep":              {of(a("p"), body(tooDeep)), api.ErrDepth},
-		"a goal of too many parts":     {of(a("p"), body(tooMany)), api.ErrMany},
 		"an endless goal":              {of(a("p"), call(endless())), api.ErrDepth},
 		"the head ahead of goals":      {of(tooDeep, call(wrong)), api.ErrDepth},
 		"a goal ahead of another":      {of(a("p"), call(tooDeep), call(wrong)), api.ErrDepth},
-		"and likewise":                 {of(a("p"), call(tooMany), call(tooDeep)), api.ErrMany},
 		"a goal ahead of the head's":   {of(v(0), call(wrong)), api.ErrTerm},
 		"a goal ahead of kinds":        {of(a("p"), kind(0), call(tooDeep)), api.ErrDepth},
 		"a goal ahead of how many":     {of(a("p"), append(many(65, cut()), call(tooDeep))...), api.ErrDepth},
@@ -263,8 +260,9 @@ func TestRefused(t *testing.T) {
 	}
 }
 
-// P15.1, P15.2: of too many slots the others answer as of other clauses.
-func TestTooManySlots(t *testing.T) {
+// P15.1, P15.2: of what is too much, slots or a term's parts, the others answer as of other clauses.
+func TestTooMuch(t *testing.T) {
+	tooDeep, tooMany := nested(200, a("a")), shared(12, v(3))
 	for name, l := range map[string]struct {
 		c         api.Clause
 		permanent []int
@@ -274,12 +272,17 @@ func TestTooManySlots(t *testing.T) {
 		"64 variables and a level": {of(vars(0, 64), call(a("q")), cut(), call(vars(0, 64))), upTo(64), 2},
 		"64 variables and a body":  {of(vars(0, 64), body(a("q")), call(vars(0, 64))), upTo(64), 2},
 		"1000 variables":           {of(parts(1000), call(a("q")), call(a("r")), call(parts(1000))), upTo(1000), 3},
+		"a head of too many parts": {of(tooMany, call(a("q")), called(1), call(c("r", v(1)))), []int{1}, 3},
+		"a goal of too many parts": {of(c("p", v(3), v(4)), body(a("q")), call(tooMany), cut(), called(4)), []int{4}, 3},
+		"a goal ahead of another":  {of(a("p"), call(tooMany), cut(), call(tooDeep)), nil, 2},
+		"a goal ahead of kinds":    {of(a("p"), call(tooMany), api.Goal{Kind: 5, Term: v(0)}), nil, 2},
+		"a goal ahead of how many": {of(a("p"), append(many(70000, called(7)), call(tooMany))...), []int{7}, 70001},
 	} {
 		p, e := plan.Of(l.c)
 		if e != api.ErrMany || !reflect.DeepEqual(p, api.Plan{}) {
 			t.Error(name, told(p), e)
 		}
-		if got := plan.Permanent(l.c); !reflect.DeepEqual(got, l.permanent) {
+		if got := plan.Permanent(l.c); !slices.Equal(got, l.permanent) {
 			t.Error(name, got)
 		}
 		if got := plan.Calls(l.c); got != l.calls {

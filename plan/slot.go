@@ -43,8 +43,12 @@ func calls(goals []api.Goal) int {
 func spans(c api.Clause) map[int]span {
 	all := make(map[int]span)
 	note(all, c.Head, 0)
-	for at, g := range c.Goals {
-		note(all, g.Term, calls(c.Goals[:at]))
+	chunk := 0
+	for _, g := range c.Goals {
+		note(all, g.Term, chunk)
+		if g.Kind != api.GoalCut {
+			chunk++
+		}
 	}
 	return all
 }
